@@ -1,0 +1,202 @@
+package flow
+
+import (
+	"marginalia/api"
+	"marginalia/double"
+	"marginalia/fold"
+	"marginalia/lines"
+	"marginalia/plain"
+	"marginalia/props"
+	"marginalia/single"
+	"marginalia/utf"
+)
+
+// properties are a node's anchor and tag; behind: the place behind the last one that it has.
+type properties struct {
+	anchor, tag string
+	behind      place
+}
+
+// some tells whether there is one. (No anchor and no tag is an empty text.)
+func (x properties) some() bool {
+	return x.anchor != "" || x.tag != ""
+}
+
+// begin reads the node to which w.at goes on: of a collection its properties and the sign that opens it.
+func (w *walk) begin() api.Errno {
+	has, stands, e := w.properties()
+	switch {
+	case e != api.OK:
+		return e
+	case !stands:
+		return w.nothing(has)
+	}
+	switch sign := w.rest(w.at)[0]; sign {
+	case '*':
+		return w.alias(has)
+	case '"', '\'':
+		return w.quoted(has, sign)
+	case '[', '{':
+		return w.opens(has, sign)
+	}
+	withFlow := !w.block || w.open.size() > 0
+	if plain.Begins(w.rest(w.at), withFlow) {
+		w.plainText(has, withFlow)
+		return api.OK
+	}
+	return w.nothing(has)
+}
+
+// properties reads the properties ahead of a node, and goes on to it; false: it is over.
+func (w *walk) properties() (properties, bool, api.Errno) {
+	var has properties
+	for {
+		p, stands, e := w.next(w.at)
+		if e != api.OK || !stands {
+			return has, false, e
+		}
+		w.at = p
+		switch w.rest(p)[0] {
+		case '&':
+			has.anchor, e = w.name(has.anchor, 1, props.Anchor)
+		case '!':
+			has.tag, e = w.name(has.tag, 0, props.Tag)
+		default:
+			return has, true, api.OK
+		}
+		if e != api.OK {
+			return properties{}, false, e
+		}
+		has.behind = w.at
+	}
+}
+
+// name reads a name by a call of package props, from so many code points behind w.at on; had: the one of its kind that there is already.
+func (w *walk) name(had string, ahead int, read func([]int) (string, int, bool)) (string, api.Errno) {
+	from := w.at.plus(ahead)
+	name, size, right := read(w.rest(from))
+	if had != "" || !right || !w.endsName(from.plus(size)) {
+		return "", api.ErrSyntax
+	}
+	w.at = from.plus(size)
+	return name, api.OK
+}
+
+// alias reads an alias.
+func (w *walk) alias(has properties) api.Errno {
+	name, e := w.name("", 1, props.Anchor)
+	if e != api.OK || has.some() {
+		return api.ErrSyntax
+	}
+	w.tell(api.Event{Kind: api.EAlias, Anchor: name}, 0)
+	return api.OK
+}
+
+// opens reads the sign that opens a collection.
+func (w *walk) opens(has properties, sign int) api.Errno {
+	if w.tooDeep(0) {
+		return api.ErrDeep
+	}
+	kind, closer := api.ESeq, int(']')
+	if sign == '{' {
+		kind, closer = api.EMap, '}'
+	}
+	w.told = append(w.told, api.Event{Kind: kind, Tag: has.tag, Anchor: has.anchor, Flag: true})
+	w.open.push(level{closer: closer})
+	w.at.at++
+	return api.OK
+}
+
+// quoted reads a text between quotes of that kind.
+func (w *walk) quoted(has properties, quote int) api.Errno {
+	end, style := single.End, api.SSingle
+	if quote == '"' {
+		end, style = double.End, api.SDouble
+	}
+	w.at.at++
+	list, e := w.upTo(end)
+	if e != api.OK {
+		return e
+	}
+	var text []int
+	if quote == '"' {
+		text, e = double.Read(list)
+	} else {
+		text = single.Read(list)
+	}
+	if e != api.OK {
+		return e
+	}
+	w.scalar(has, text, style)
+	return api.OK
+}
+
+// upTo answers the lines from w.at on up to the quote that closes them, which end finds in one of them, and goes behind it.
+func (w *walk) upTo(end func([]int) (int, bool)) ([][]int, api.Errno) {
+	var list [][]int
+	for p := range w.places(w.at) {
+		line, isFirst := w.lines[p.line], p.line == w.at.line
+		if !isFirst && !lines.Empty(line) && line.Indent <= w.n {
+			return nil, api.ErrIndent
+		}
+		if !isFirst && lines.Marker(line) != 0 {
+			break
+		}
+		rest := w.rest(p)
+		if size, closed := end(rest); closed {
+			w.at = p.plus(size + 1)
+			return append(list, rest[:size]), api.OK
+		}
+		list = append(list, rest)
+	}
+	return nil, api.ErrSyntax
+}
+
+// plainText reads a plain text.
+func (w *walk) plainText(has properties, withFlow bool) {
+	var list [][]int
+	for p, more := w.at, true; more; p, more = w.further(withFlow) {
+		if len(list) > 0 {
+			list = append(list, make([][]int, p.line-w.at.line-1)...)
+		}
+		size := plain.End(w.rest(p), withFlow)
+		list = append(list, w.rest(p)[:size])
+		w.at = p.plus(size)
+	}
+	w.scalar(has, fold.Flow(list), api.SPlain)
+}
+
+// further answers the beginning of the next line, past empty ones, of the plain text that ends at w.at so far; false: there is none.
+func (w *walk) further(withFlow bool) (place, bool) {
+	for p := range w.places(w.at) {
+		line := w.lines[p.line]
+		if len(w.rest(w.pastBlanks(p))) == 0 {
+			continue
+		}
+		if p.line == w.at.line || lines.Marker(line) != 0 || line.Indent <= w.n || lines.Bare(line) {
+			break
+		}
+		return p, plain.End(line.Text, withFlow) > 0
+	}
+	return place{}, false
+}
+
+// nothing tells the empty node behind properties; it has no place without them.
+func (w *walk) nothing(has properties) api.Errno {
+	if !has.some() {
+		return api.ErrSyntax
+	}
+	w.at = has.behind
+	w.empty(has)
+	return api.OK
+}
+
+// empty tells an empty node.
+func (w *walk) empty(has properties) {
+	w.scalar(has, nil, api.SPlain)
+}
+
+// scalar tells a scalar with that text.
+func (w *walk) scalar(has properties, text []int, style int) {
+	w.tell(api.Event{Kind: api.EScalar, Text: string(utf.Bytes(text)), Tag: has.tag, Anchor: has.anchor, Style: style}, 0)
+}
