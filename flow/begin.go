@@ -136,11 +136,12 @@ func (w *walk) upTo(end func([]int) (int, bool)) ([][]int, api.Errno) {
 	var list [][]int
 	for p := range w.places(w.at) {
 		line, isFirst := w.lines[p.line], p.line == w.at.line
-		if !isFirst && !lines.Empty(line) && line.Indent <= w.n {
-			return nil, api.ErrIndent
-		}
+		// It is over at a Marker, which is no line of the text: its Indent does not count.
 		if !isFirst && lines.Marker(line) != 0 {
 			break
+		}
+		if !isFirst && !lines.Empty(line) && line.Indent <= w.n {
+			return nil, api.ErrIndent
 		}
 		rest := w.rest(p)
 		if size, closed := end(rest); closed {

@@ -410,17 +410,46 @@ func moved(want string, by int) string {
 	return head + "@0:" + strconv.Itoa(at+by)
 }
 
-// TestQuoteIndent: P1301: each line between quotes that is not Empty stands above n; the Indent is told ahead of a Marker.
+// TestQuoteIndent: P1301: each line between quotes that is not Empty stands above n; a Marker is none of them.
 func TestQuoteIndent(t *testing.T) {
 	for _, q := range []string{"'", "\""} {
 		for s, want := range map[string]string{
 			"%a\n b%": "ok", "%a\n%": "ErrIndent", "%a\nb%": "ErrIndent", "%a\n\n%": "ErrIndent", "%a\n\n\n b%": "ok", "%a\n\t\n b%": "ok", "%a\n\tb%": "ErrIndent", "%a\n\t%": "ErrIndent", "%a\n #\n %": "ok", "%a\n#\n %": "ErrIndent", "%a\n b\nc%": "ErrIndent", "%a\n b\n c": "ErrSyntax", "%a\nb": "ErrIndent", "%a\n b\n\n": "ErrSyntax",
-			"%a\n---": "ErrIndent", "%a\n...\n %": "ErrIndent", "%a\n b\n---": "ErrIndent", "%a\n ---\n %": "ok", "%a\n---%": "ErrIndent",
+			"%a\n---": "ErrSyntax", "%a\n...\n %": "ErrSyntax", "%a\n b\n---": "ErrSyntax", "%a\n ---\n %": "ok", "%a\n---%": "ErrIndent", "%a\n--- %": "ErrSyntax", "%a\n----": "ErrIndent", "%a\nb\n---": "ErrIndent", "%a\n#\n...": "ErrIndent", "%a\n---\nb%": "ErrSyntax",
 		} {
 			s = strings.ReplaceAll(s, "%", q)
 			got := read(all(s), 0, 0, 0, 0)
 			if want == "ok" && strings.HasPrefix(got, "Err") || want != "ok" && got != want {
 				t.Errorf("P1301: %q within 0: %s, not %s", s, got, want)
+			}
+		}
+	}
+}
+
+// TestMarkerBehindQuote: P1301: at a Marker behind an open quote it is over, whatever n is; a line ahead of it that is not Empty and not above n is met first.
+func TestMarkerBehindQuote(t *testing.T) {
+	markers := []string{"---", "...", "--- ", "...\t", "--- b", "... # c", "--- %", "...\t%]}", "---\n%", "...\n   %]", "---\n---"}
+	begins := []string{"%", "%a", "&x %a", "[%a", "[b, %a", "[? %a", "[b: %a", "{%a", "{b: %a", "{? %a", "[{%a", "[\n      %a", "%a\n      b", "%a\n      ---"}
+	for _, q := range []string{"'", "\""} {
+		for _, begin := range begins {
+			for _, marker := range markers {
+				for _, empty := range []string{"\n", "\n\n", "\n \n\t\n"} {
+					text := strings.ReplaceAll(begin+empty+marker, "%", q)
+					for _, n := range []int{math.MinInt, -1, 0, 1, 5} {
+						check(t, text, n, "ErrSyntax")
+					}
+				}
+				for _, low := range []string{"b", " b", "\tb", "#", " ---", "----", "...b"} {
+					text := strings.ReplaceAll(begin+"\n"+low+"\n"+marker, "%", q)
+					check(t, text, 1, "ErrIndent")
+				}
+			}
+		}
+		check(t, q+"a\n---", math.MaxInt, "ErrSyntax")
+		l := all(strings.ReplaceAll("--- # c\n%q% : # c\n - &a\n   a#b # c\n - !t y\n---", "%", q))
+		for n, want := range []string{"ErrSyntax", "ErrIndent", "ErrIndent"} {
+			if got := read(l, 1, 2, n, 0); got != want {
+				t.Errorf("P1301: behind %s on further lines, within %d: %s, not %s", q, n, got, want)
 			}
 		}
 	}

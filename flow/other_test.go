@@ -155,8 +155,8 @@ func (o *other) quoted(s spot, x api.Event) part {
 	for first := s.line; ; s = (spot{s.line + 1, o.l[s.line+1].Indent}) {
 		if s.line > first {
 			line := o.l[s.line]
-			need(lines.Empty(line) || line.Indent > o.n, api.ErrIndent)
 			need(lines.Marker(line) == 0, api.ErrSyntax)
+			need(lines.Empty(line) || line.Indent > o.n, api.ErrIndent)
 		}
 		rest := o.rest(s)
 		size, closed := single.End(rest)
@@ -382,7 +382,10 @@ func TestAllLines(t *testing.T) {
 	eachText("a' \n\\\"-", 5, func(s string) {
 		hold(t, "\""+s+"\"", 0, 0)
 		hold(t, "'"+s+"'", 0, 0)
-		hold(t, "'a\n---"+s+"\n'", -1, 0)
+		for n := -1; n < 2; n++ {
+			hold(t, "'a\n---"+s+"\n'", n, 0)
+			hold(t, "[\""+s+"\n...", n, 0)
+		}
 	})
 }
 
