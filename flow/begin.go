@@ -5,21 +5,22 @@ import (
 	"marginalia/double"
 	"marginalia/fold"
 	"marginalia/lines"
+	"marginalia/places"
 	"marginalia/plain"
 	"marginalia/props"
 	"marginalia/single"
 	"marginalia/utf"
 )
 
-// properties are a node's anchor and tag; behind: the place behind the last one that it has.
-type properties struct {
-	anchor, tag string
-	behind      place
+// Properties are a node's anchor and tag; Behind: the place behind the last one that it has, or where they were looked for.
+type Properties struct {
+	Anchor, Tag string
+	Behind      places.Place
 }
 
-// some tells whether there is one. (No anchor and no tag is an empty text.)
-func (x properties) some() bool {
-	return x.anchor != "" || x.tag != ""
+// Some tells whether there is one. (No anchor and no tag is an empty text.)
+func (x Properties) Some() bool {
+	return x.Anchor != "" || x.Tag != ""
 }
 
 // begin reads the node to which w.at goes on: of a collection its properties and the sign that opens it.
@@ -31,7 +32,7 @@ func (w *walk) begin() api.Errno {
 	case !stands:
 		return w.nothing(has)
 	}
-	switch sign := w.rest(w.at)[0]; sign {
+	switch sign := w.Rest(w.at)[0]; sign {
 	case '*':
 		return w.alias(has)
 	case '"', '\'':
@@ -39,8 +40,8 @@ func (w *walk) begin() api.Errno {
 	case '[', '{':
 		return w.opens(has, sign)
 	}
-	withFlow := !w.block || w.open.size() > 0
-	if plain.Begins(w.rest(w.at), withFlow) {
+	withFlow := !w.block || w.open.Size() > 0
+	if plain.Begins(w.Rest(w.at), withFlow) {
 		w.plainText(has, withFlow)
 		return api.OK
 	}
@@ -48,44 +49,44 @@ func (w *walk) begin() api.Errno {
 }
 
 // properties reads the properties ahead of a node, and goes on to it; false: it is over.
-func (w *walk) properties() (properties, bool, api.Errno) {
-	var has properties
+func (w *walk) properties() (Properties, bool, api.Errno) {
+	has := Properties{Behind: w.at}
 	for {
 		p, stands, e := w.next(w.at)
 		if e != api.OK || !stands {
 			return has, false, e
 		}
 		w.at = p
-		switch w.rest(p)[0] {
+		switch w.Rest(p)[0] {
 		case '&':
-			has.anchor, e = w.name(has.anchor, 1, props.Anchor)
+			has.Anchor, e = w.name(has.Anchor, 1, props.Anchor)
 		case '!':
-			has.tag, e = w.name(has.tag, 0, props.Tag)
+			has.Tag, e = w.name(has.Tag, 0, props.Tag)
 		default:
 			return has, true, api.OK
 		}
 		if e != api.OK {
-			return properties{}, false, e
+			return Properties{}, false, e
 		}
-		has.behind = w.at
+		has.Behind = w.at
 	}
 }
 
 // name reads a name by a call of package props, from so many code points behind w.at on; had: the one of its kind that there is already.
 func (w *walk) name(had string, ahead int, read func([]int) (string, int, bool)) (string, api.Errno) {
-	from := w.at.plus(ahead)
-	name, size, right := read(w.rest(from))
-	if had != "" || !right || !w.endsName(from.plus(size)) {
+	from := w.at.Plus(ahead)
+	name, size, right := read(w.Rest(from))
+	if had != "" || !right || !w.endsName(from.Plus(size)) {
 		return "", api.ErrSyntax
 	}
-	w.at = from.plus(size)
+	w.at = from.Plus(size)
 	return name, api.OK
 }
 
 // alias reads an alias.
-func (w *walk) alias(has properties) api.Errno {
+func (w *walk) alias(has Properties) api.Errno {
 	name, e := w.name("", 1, props.Anchor)
-	if e != api.OK || has.some() {
+	if e != api.OK || has.Some() {
 		return api.ErrSyntax
 	}
 	w.tell(api.Event{Kind: api.EAlias, Anchor: name}, 0)
@@ -93,7 +94,7 @@ func (w *walk) alias(has properties) api.Errno {
 }
 
 // opens reads the sign that opens a collection.
-func (w *walk) opens(has properties, sign int) api.Errno {
+func (w *walk) opens(has Properties, sign int) api.Errno {
 	if w.tooDeep(0) {
 		return api.ErrDeep
 	}
@@ -101,19 +102,19 @@ func (w *walk) opens(has properties, sign int) api.Errno {
 	if sign == '{' {
 		kind, closer = api.EMap, '}'
 	}
-	w.told = append(w.told, api.Event{Kind: kind, Tag: has.tag, Anchor: has.anchor, Flag: true})
-	w.open.push(level{closer: closer})
-	w.at.at++
+	w.told = append(w.told, api.Event{Kind: kind, Tag: has.Tag, Anchor: has.Anchor, Flag: true})
+	w.open.Push(level{closer: closer})
+	w.at.At++
 	return api.OK
 }
 
 // quoted reads a text between quotes of that kind.
-func (w *walk) quoted(has properties, quote int) api.Errno {
+func (w *walk) quoted(has Properties, quote int) api.Errno {
 	end, style := single.End, api.SSingle
 	if quote == '"' {
 		end, style = double.End, api.SDouble
 	}
-	w.at.at++
+	w.at.At++
 	list, e := w.upTo(end)
 	if e != api.OK {
 		return e
@@ -134,8 +135,8 @@ func (w *walk) quoted(has properties, quote int) api.Errno {
 // upTo answers the lines from w.at on up to the quote that closes them, which end finds in one of them, and goes behind it.
 func (w *walk) upTo(end func([]int) (int, bool)) ([][]int, api.Errno) {
 	var list [][]int
-	for p := range w.places(w.at) {
-		line, isFirst := w.lines[p.line], p.line == w.at.line
+	for p := range w.From(w.at) {
+		line, isFirst := w.Lines[p.Line], p.Line == w.at.Line
 		// It is over at a Marker, which is no line of the text: its Indent does not count.
 		if !isFirst && lines.Marker(line) != 0 {
 			break
@@ -143,9 +144,9 @@ func (w *walk) upTo(end func([]int) (int, bool)) ([][]int, api.Errno) {
 		if !isFirst && !lines.Empty(line) && line.Indent <= w.n {
 			return nil, api.ErrIndent
 		}
-		rest := w.rest(p)
+		rest := w.Rest(p)
 		if size, closed := end(rest); closed {
-			w.at = p.plus(size + 1)
+			w.at = p.Plus(size + 1)
 			return append(list, rest[:size]), api.OK
 		}
 		list = append(list, rest)
@@ -154,50 +155,50 @@ func (w *walk) upTo(end func([]int) (int, bool)) ([][]int, api.Errno) {
 }
 
 // plainText reads a plain text.
-func (w *walk) plainText(has properties, withFlow bool) {
+func (w *walk) plainText(has Properties, withFlow bool) {
 	var list [][]int
 	for p, more := w.at, true; more; p, more = w.further(withFlow) {
 		if len(list) > 0 {
-			list = append(list, make([][]int, p.line-w.at.line-1)...)
+			list = append(list, make([][]int, p.Line-w.at.Line-1)...)
 		}
-		size := plain.End(w.rest(p), withFlow)
-		list = append(list, w.rest(p)[:size])
-		w.at = p.plus(size)
+		size := plain.End(w.Rest(p), withFlow)
+		list = append(list, w.Rest(p)[:size])
+		w.at = p.Plus(size)
 	}
 	w.scalar(has, fold.Flow(list), api.SPlain)
 }
 
 // further answers the beginning of the next line, past empty ones, of the plain text that ends at w.at so far; false: there is none.
-func (w *walk) further(withFlow bool) (place, bool) {
-	for p := range w.places(w.at) {
-		line := w.lines[p.line]
-		if len(w.rest(w.pastBlanks(p))) == 0 {
+func (w *walk) further(withFlow bool) (places.Place, bool) {
+	for p := range w.From(w.at) {
+		line := w.Lines[p.Line]
+		if len(w.Rest(w.PastBlanks(p))) == 0 {
 			continue
 		}
-		if p.line == w.at.line || lines.Marker(line) != 0 || line.Indent <= w.n || lines.Bare(line) {
+		if p.Line == w.at.Line || lines.Marker(line) != 0 || line.Indent <= w.n || lines.Bare(line) {
 			break
 		}
 		return p, plain.End(line.Text, withFlow) > 0
 	}
-	return place{}, false
+	return places.Place{}, false
 }
 
 // nothing tells the empty node behind properties; it has no place without them.
-func (w *walk) nothing(has properties) api.Errno {
-	if !has.some() {
+func (w *walk) nothing(has Properties) api.Errno {
+	if !has.Some() {
 		return api.ErrSyntax
 	}
-	w.at = has.behind
+	w.at = has.Behind
 	w.empty(has)
 	return api.OK
 }
 
 // empty tells an empty node.
-func (w *walk) empty(has properties) {
+func (w *walk) empty(has Properties) {
 	w.scalar(has, nil, api.SPlain)
 }
 
 // scalar tells a scalar with that text.
-func (w *walk) scalar(has properties, text []int, style int) {
-	w.tell(api.Event{Kind: api.EScalar, Text: string(utf.Bytes(text)), Tag: has.tag, Anchor: has.anchor, Style: style}, 0)
+func (w *walk) scalar(has Properties, text []int, style int) {
+	w.tell(api.Event{Kind: api.EScalar, Text: string(utf.Bytes(text)), Tag: has.Tag, Anchor: has.Anchor, Style: style}, 0)
 }

@@ -1,21 +1,22 @@
 package flow
 
 import (
-	"iter"
 	"slices"
 
 	"marginalia/api"
 	"marginalia/chars"
 	"marginalia/lines"
+	"marginalia/places"
+	"marginalia/stacks"
 )
 
 // walk is the reading of one node. Collections that are open stand in a list, not in calls within calls: where deep is below 0 there may be more of them than those may be.
 type walk struct {
-	lines   []api.Line
+	places.Lines
 	n, deep int
-	block   bool  // a plain text that stands in no collection is one without flow
-	at      place // what stands ahead is read
-	open    stack[level]
+	block   bool         // a plain text that stands in no collection is one without flow
+	at      places.Place // what stands ahead is read
+	open    stacks.Stack[level]
 	told    []api.Event
 	tall    int // how many collections stand in each other in the node that was read last, with itself
 }
@@ -25,9 +26,9 @@ type level struct {
 	closer int // ] or }; of a pair in brackets: the ] behind it, which closes another one
 	pair   bool
 	next   step
-	began  place // in brackets: where the entry's node began
-	hole   int   // in brackets: the event that becomes a mapping's if that node turns out to be a key
-	tall   int   // of the tallest node in it
+	began  places.Place // in brackets: where the entry's node began
+	hole   int          // in brackets: the event that becomes a mapping's if that node turns out to be a key
+	tall   int          // of the tallest node in it
 }
 
 // step is what comes next in a level.
@@ -41,10 +42,18 @@ const (
 	behindEntry             // a comma, or what closes the level
 )
 
+// read answers the events of the node to which w.at goes on, and the place behind it.
+func (w *walk) read() ([]api.Event, places.Place, api.Errno) {
+	if e := w.node(); e != api.OK {
+		return nil, places.Place{}, e
+	}
+	return w.events(), w.at, api.OK
+}
+
 // node reads the whole node to which w.at goes on.
 func (w *walk) node() api.Errno {
 	e := w.begin()
-	for e == api.OK && w.open.size() > 0 {
+	for e == api.OK && w.open.Size() > 0 {
 		e = w.goAhead()
 	}
 	return e
@@ -52,7 +61,7 @@ func (w *walk) node() api.Errno {
 
 // goAhead does the next step of the innermost level.
 func (w *walk) goAhead() api.Errno {
-	switch w.open.top().next {
+	switch w.open.Top().next {
 	case atEntry:
 		return w.entry()
 	case behindItem:
@@ -71,10 +80,10 @@ func (w *walk) entry() api.Errno {
 	if e := w.goOn(); e != api.OK {
 		return e
 	}
-	top := w.open.top()
+	top := w.open.Top()
 	switch {
-	case w.stands(w.at, top.closer):
-		w.at.at++
+	case w.Stands(w.at, top.closer):
+		w.at.At++
 		w.close()
 		return api.OK
 	case w.standsAlone(w.at, '?'):
@@ -90,20 +99,20 @@ func (w *walk) entry() api.Errno {
 
 // question reads the ? of an entry, and the key behind it.
 func (w *walk) question() api.Errno {
-	if w.open.top().closer == ']' {
+	if w.open.Top().closer == ']' {
 		if w.tooDeep(0) {
 			return api.ErrDeep
 		}
 		w.told = append(w.told, api.Event{Kind: api.EMap, Flag: true})
 		w.openPair(0)
 	}
-	w.at.at++
+	w.at.At++
 	if e := w.goOn(); e != api.OK {
 		return e
 	}
-	w.open.top().next = behindKey
+	w.open.Top().next = behindKey
 	if w.entryEnds() || w.standsAlone(w.at, ':') {
-		w.empty(properties{})
+		w.empty(Properties{})
 		return api.OK
 	}
 	return w.begin()
@@ -111,13 +120,13 @@ func (w *walk) question() api.Errno {
 
 // item looks whether the node in brackets that was read is a key. Whether it is, its sign of value tells, so that its mapping opens ahead of what is told already.
 func (w *walk) item() api.Errno {
-	top := w.open.top()
+	top := w.open.Top()
 	top.next = behindEntry
 	sign, stands, e := w.next(w.at)
 	if e != api.OK || !stands {
 		return e
 	}
-	if !w.valueSign(sign) || sign.line != top.began.line || sign.at-top.began.at > api.MaxKey {
+	if !w.valueSign(sign) || sign.Line != top.began.Line || sign.At-top.began.At > api.MaxKey {
 		return api.OK
 	}
 	if w.tooDeep(w.tall) {
@@ -137,21 +146,21 @@ func (w *walk) value() api.Errno {
 	case !stands:
 		return api.ErrSyntax
 	}
-	top := w.open.top()
+	top := w.open.Top()
 	top.next = behindEntry
 	if top.pair {
 		top.next = behindValue
 	}
 	if !w.valueSign(sign) {
-		w.empty(properties{})
+		w.empty(Properties{})
 		return api.OK
 	}
-	w.at = sign.plus(1)
+	w.at = sign.Plus(1)
 	if e := w.goOn(); e != api.OK {
 		return e
 	}
 	if w.entryEnds() {
-		w.empty(properties{})
+		w.empty(Properties{})
 		return api.OK
 	}
 	return w.begin()
@@ -162,13 +171,13 @@ func (w *walk) comma() api.Errno {
 	if e := w.goOn(); e != api.OK {
 		return e
 	}
-	top := w.open.top()
+	top := w.open.Top()
 	switch {
-	case w.stands(w.at, ','):
-		w.at.at++
+	case w.Stands(w.at, ','):
+		w.at.At++
 		top.next = atEntry
-	case w.stands(w.at, top.closer):
-		w.at.at++
+	case w.Stands(w.at, top.closer):
+		w.at.At++
 		w.close()
 	default:
 		return api.ErrSyntax
@@ -178,13 +187,13 @@ func (w *walk) comma() api.Errno {
 
 // openPair opens the level of a pair in brackets, with which the entry around it ends; tall: that of the key, if it was read already.
 func (w *walk) openPair(tall int) {
-	w.open.top().next = behindEntry
-	w.open.push(level{closer: ']', pair: true, next: behindKey, tall: tall})
+	w.open.Top().next = behindEntry
+	w.open.Push(level{closer: ']', pair: true, next: behindKey, tall: tall})
 }
 
 // close ends the innermost level.
 func (w *walk) close() {
-	x := w.open.pop()
+	x := w.open.Pop()
 	kind := api.EMapEnd
 	if x.closer == ']' && !x.pair {
 		kind = api.ESeqEnd
@@ -196,8 +205,8 @@ func (w *walk) close() {
 func (w *walk) tell(x api.Event, tall int) {
 	w.told = append(w.told, x)
 	w.tall = tall
-	if w.open.size() > 0 {
-		top := w.open.top()
+	if w.open.Size() > 0 {
+		top := w.open.Top()
 		top.tall = max(top.tall, tall)
 	}
 }
@@ -209,48 +218,31 @@ func (w *walk) events() []api.Event {
 
 // tooDeep tells whether one more collection, with so many in each other in it, is too deep.
 func (w *walk) tooDeep(within int) bool {
-	return w.deep+w.open.size()+within >= api.MaxDepth
+	return w.deep+w.open.Size()+within >= api.MaxDepth
 }
 
 // entryEnds tells whether what stands here ends an entry.
 func (w *walk) entryEnds() bool {
-	return w.stands(w.at, ',') || w.stands(w.at, w.open.top().closer)
+	return w.Stands(w.at, ',') || w.Stands(w.at, w.open.Top().closer)
 }
 
 // valueSign tells whether a sign of value stands at p, to which the key that was read goes on. Directly behind a key each : is one: behind a quote, ] or } by itself, and any other key would have gone on past it if a safe one stood behind it.
-func (w *walk) valueSign(p place) bool {
-	return w.standsAlone(p, ':') || w.stands(p, ':') && p == w.at
+func (w *walk) valueSign(p places.Place) bool {
+	return w.standsAlone(p, ':') || w.Stands(p, ':') && p == w.at
 }
 
 // standsAlone tells whether that sign stands at p with no safe one behind it. (The safe ones with flow are just those of names.)
-func (w *walk) standsAlone(p place, sign int) bool {
-	if !w.stands(p, sign) {
+func (w *walk) standsAlone(p places.Place, sign int) bool {
+	if !w.Stands(p, sign) {
 		return false
 	}
-	behind := w.rest(p.plus(1))
+	behind := w.Rest(p.Plus(1))
 	return len(behind) == 0 || !chars.Name(behind[0])
 }
 
-// stands tells whether that sign stands at p.
-func (w *walk) stands(p place, sign int) bool {
-	rest := w.rest(p)
-	return len(rest) > 0 && rest[0] == sign
-}
-
 // endsName tells whether what stands at p ends a name.
-func (w *walk) endsName(p place) bool {
-	return w.blankAt(p) || chars.Flow(w.rest(p)[0])
-}
-
-// blankAt tells whether a blank or nothing stands at p.
-func (w *walk) blankAt(p place) bool {
-	rest := w.rest(p)
-	return len(rest) == 0 || chars.Blank(rest[0])
-}
-
-// rest answers what stands from p on up to its line's end. It is a piece of the line itself.
-func (w *walk) rest(p place) []int {
-	return w.lines[p.line].Text[p.at:]
+func (w *walk) endsName(p places.Place) bool {
+	return w.Blank(p) || chars.Flow(w.Rest(p)[0])
 }
 
 // goOn goes on, within a collection, where it may not be over.
@@ -267,46 +259,20 @@ func (w *walk) goOn() api.Errno {
 }
 
 // next answers where p goes on to; false: it is over.
-func (w *walk) next(p place) (place, bool, api.Errno) {
-	for q := range w.places(p) {
-		line, isFirst := w.lines[q.line], q.line == p.line
+func (w *walk) next(p places.Place) (places.Place, bool, api.Errno) {
+	for q := range w.From(p) {
+		line, isFirst := w.Lines[q.Line], q.Line == p.Line
 		if !isFirst && lines.Marker(line) != 0 {
 			break
 		}
-		q = w.pastBlanks(q)
-		if w.lineEnds(q) {
+		q = w.PastBlanks(q)
+		if w.Ends(q) {
 			continue
 		}
 		if !isFirst && line.Indent <= w.n {
-			return place{}, false, api.ErrIndent
+			return places.Place{}, false, api.ErrIndent
 		}
 		return q, true, api.OK
 	}
-	return place{}, false, api.OK
-}
-
-// places tells p, and then the beginning of each line behind it, one by one.
-func (w *walk) places(p place) iter.Seq[place] {
-	return func(yield func(place) bool) {
-		for q := p; q.line < len(w.lines) && yield(q); {
-			q = place{line: q.line + 1}
-		}
-	}
-}
-
-// pastBlanks answers the first place from p on, on its line, with no blank.
-func (w *walk) pastBlanks(p place) place {
-	for _, c := range w.rest(p) {
-		if !chars.Blank(c) {
-			break
-		}
-		p.at++
-	}
-	return p
-}
-
-// lineEnds tells whether a line ends at p, or a remark begins there. (At the beginning of the Text the line begins, or a blank of the Indent stands ahead.)
-func (w *walk) lineEnds(p place) bool {
-	text := w.lines[p.line].Text
-	return p.at == len(text) || text[p.at] == '#' && (p.at == 0 || chars.Blank(text[p.at-1]))
+	return places.Place{}, false, api.OK
 }
