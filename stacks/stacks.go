@@ -1,4 +1,4 @@
-// Package stacks stands beside the layers: it holds what the ones share that read collections in each other.
+// Package stacks stands beside the layers: it holds what the ones share that go through collections in each other.
 package stacks
 
 // Stack holds things of which only the last one counts, until it is taken off.
