@@ -1,6 +1,7 @@
 package stream
 
 import (
+	"slices"
 	"strconv"
 	"strings"
 	"testing"
@@ -206,4 +207,34 @@ func TestFirstError(t *testing.T) {
 		// Directives' ahead of their document's, behind those of the one ahead.
 		{"%\n--- !e!x a", "ErrSyntax"}, {"%YAML 2.0\n---\n\ta", "ErrSyntax"}, {"%TAG !e! a\n%TAG !e! b\n--- !f!x a", "ErrSyntax"}, {"%A\n!e!x a", "ErrSyntax"}, {"%A\n\ta", "ErrSyntax"}, {"a:\n\tb\n...\n%", "ErrTab"}, {"'a'\n b\n...\n%YAML 2.0\n---", "ErrIndent"},
 	})
+}
+
+// TestWithin: P1501: with tags that are cut all else is told as Read tells it, its errors too.
+func TestWithin(t *testing.T) {
+	for _, s := range append(texts(), "%TAG !e! abc:\n--- !e!x [!e!y a, !!str b, !c d, ! e, !<fgh> i, *j]\n--- !e!x k", "[!a b, !!map {!c d: *e}]") {
+		whole, wrong := Read(all(s))
+		for _, most := range []int{-1, 0, 1, 2, 4, 5, 20, 21, 1 << 40} {
+			want := slices.Clone(whole)
+			for at := range want {
+				want[at].Tag = want[at].Tag[:max(min(len(want[at].Tag), most), 0)]
+			}
+			got, e := Within(all(s), most)
+			if e != wrong || !slices.Equal(got, want) {
+				t.Errorf("P1501: %q with %d bytes of tags: %v, %v, not %v, %v", s, most, got, e, want, wrong)
+			}
+		}
+	}
+}
+
+// TestLongPrefix: P1501: of many tags with a long prefix no more is made than was asked for.
+func TestLongPrefix(t *testing.T) {
+	l := all("%TAG !e! " + strings.Repeat("a", 1<<19) + "\n--- [" + strings.Repeat("!e!x ,", 80000) + "]")
+	list, e := Within(l, 10)
+	if e != api.OK || len(list) != 80004 || list[80001].Tag != "aaaaaaaaaa" {
+		t.Errorf("P1501: %d events, %v", len(list), e)
+	}
+	list, e = Read(append(l[:1:1], all("--- !e!x a")...))
+	if e != api.OK || len(list) != 3 || list[1].Tag != strings.Repeat("a", 1<<19)+"x" {
+		t.Errorf("P1501: of one tag with a long prefix: %d events, %v", len(list), e)
+	}
 }

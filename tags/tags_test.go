@@ -1,6 +1,7 @@
 package tags
 
 import (
+	"math"
 	"math/rand"
 	"strconv"
 	"strings"
@@ -124,6 +125,22 @@ func TestMany(t *testing.T) {
 	for _, x := range list {
 		if s.Set("!"+strconv.Itoa(x)+"!", "y") {
 			t.Errorf("P1601: %d was Set twice", x)
+		}
+	}
+}
+
+// TestStart: P1601: the start of a whole tag is of what Whole tells, and of nothing else; what is none has none.
+func TestStart(t *testing.T) {
+	var s Scope
+	s.Set("!e!", "abc:")
+	s.Set("!n!", "")
+	for _, tag := range []string{"", "!", "!a", "!abc", "!!str", "!e!x", "!e!xyz", "!n!xyz", "<abc", "<!", "!f!a", "a", "<a b", "!!", "!e!"} {
+		want, wrong := s.Whole(tag)
+		for _, most := range []int{math.MinInt, -1, 0, 1, 2, 3, 4, 5, 6, 7, 8, 17, 18, 19, 20, 21, 22, 1 << 40, math.MaxInt} {
+			start := want[:max(min(len(want), most), 0)]
+			if got, e := s.Start(tag, most); got != start || e != wrong {
+				t.Errorf("P1601: %d of %q: %q, %v, not %q, %v", most, tag, got, e, start, wrong)
+			}
 		}
 	}
 }
